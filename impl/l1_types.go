@@ -10,6 +10,7 @@ const variableLetters = "XYZxyz"
 
 // A node is a type that was read: a *constant, a *variable or a *construct.
 type node interface {
+	head() byte
 	text() string
 	parts() []node
 }
@@ -27,13 +28,19 @@ type construct struct {
 	inner  []node
 }
 
+func (c *constant) head() byte { return c.letter }
+
 func (c *constant) text() string { return letterText(c.letter) }
 
 func (c *constant) parts() []node { return nil }
 
+func (v *variable) head() byte { return v.letter }
+
 func (v *variable) text() string { return letterText(v.letter) }
 
 func (v *variable) parts() []node { return nil }
+
+func (c *construct) head() byte { return c.letter }
 
 func (c *construct) text() string {
 	return joinType(letterText(c.letter), partTexts(c))
@@ -159,19 +166,23 @@ func nodeDepth(n node) int {
 	return depth
 }
 
-// renameNode leaves the node as it is, since others may hold it.
-func renameNode(n node) node {
+// replaceVariables leaves the node as it is, since others may hold it.
+func replaceVariables(n node, replace func(v *variable) node) node {
 	switch x := n.(type) {
 	case *variable:
-		return &variable{letter: capitalOf(x.letter)}
+		return replace(x)
 	case *construct:
 		var inner []node
 		for _, p := range x.inner {
-			inner = append(inner, renameNode(p))
+			inner = append(inner, replaceVariables(p, replace))
 		}
 		return &construct{letter: x.letter, inner: inner}
 	}
 	return n
+}
+
+func capitalVariable(v *variable) node {
+	return &variable{letter: capitalOf(v.letter)}
 }
 
 func capitalOf(letter byte) byte {
@@ -283,5 +294,5 @@ func RenameType(t string) string {
 	if !ok {
 		return ""
 	}
-	return renameNode(root).text()
+	return replaceVariables(root, capitalVariable).text()
 }

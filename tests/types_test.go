@@ -206,16 +206,27 @@ func TestCountVarOfNoVariable(t *testing.T) {
 
 // allTypes returns all types of at most a length, written by the grammar alone.
 func allTypes(length int) map[string]bool {
-	byLength := make([][]string, length+1)
 	all := map[string]bool{}
+	for _, s := range typesFrom("ibuxyzXYZ", "lm", length) {
+		all[s] = true
+	}
+	return all
+}
+
+// typesFrom returns all types of at most a length that have these letters without parts, these with one part, and p.
+func typesFrom(leaves, heads string, length int) []string {
+	byLength := make([][]string, length+1)
+	var all []string
 	for n := 1; n <= length; n++ {
 		if n == 1 {
-			byLength[n] = strings.Split("ibuxyzXYZ", "")
+			byLength[n] = strings.Split(leaves, "")
 		}
 		for k := 1; k <= n-3; k++ {
 			for _, a := range byLength[k] {
 				if k == n-3 {
-					byLength[n] = append(byLength[n], "l("+a+")", "m("+a+")")
+					for _, head := range heads {
+						byLength[n] = append(byLength[n], string(head)+"("+a+")")
+					}
 				} else if k < n-4 {
 					for _, b := range byLength[n-4-k] {
 						byLength[n] = append(byLength[n], "p("+a+","+b+")")
@@ -223,9 +234,7 @@ func allTypes(length int) map[string]bool {
 				}
 			}
 		}
-		for _, s := range byLength[n] {
-			all[s] = true
-		}
+		all = append(all, byLength[n]...)
 	}
 	return all
 }
