@@ -43,7 +43,7 @@ func (v *variable) parts() []node { return nil }
 func (c *construct) head() byte { return c.letter }
 
 func (c *construct) text() string {
-	return joinType(letterText(c.letter), partTexts(c))
+	return joinParts(letterText(c.letter), partTexts(c))
 }
 
 func (c *construct) parts() []node { return c.inner }
@@ -58,8 +58,8 @@ func partTexts(n node) []string {
 	return list
 }
 
-// joinType puts a text together without a look at whether it is a type.
-func joinType(head string, parts []string) string {
+// joinParts puts a text together without a look at whether it is a type.
+func joinParts(head string, parts []string) string {
 	if len(parts) == 0 {
 		return head
 	}
@@ -226,7 +226,7 @@ func MakeType(head string, parts []string) (string, bool) {
 			return "", false
 		}
 	}
-	t := joinType(head, parts)
+	t := joinParts(head, parts)
 	if len(t) > MaxType {
 		return "", false
 	}
