@@ -461,6 +461,15 @@ type pending struct {
 	stack []impl.Need
 }
 
+// below returns needs that a pending one asks for.
+func (p pending) below(needs []impl.Need) []pending {
+	var list []pending
+	for _, n := range needs {
+		list = append(list, pending{need: n, stack: append(slices.Clone(p.stack), p.need)})
+	}
+	return list
+}
+
 // stepByTexts returns the candidate of a need and its needs, or the reason why it fails.
 func stepByTexts(w impl.World, p pending, before int, choose func(candidates []int) int) (int, []impl.Need, string) {
 	if before == 300 {
@@ -509,12 +518,14 @@ func searchByTexts(w impl.World, n impl.Need, choose func(candidates []int) int)
 			return outcome{why: why, asked: needsText(asked, true), failing: impl.FormatNeed(p.need), stack: needsText(p.stack, true)}
 		}
 		digits, counts = append(digits, strconv.Itoa(i)), append(counts, len(needs))
-		var below []pending
-		for _, need := range needs {
-			below = append(below, pending{need: need, stack: append(slices.Clone(p.stack), p.need)})
-		}
-		todo = append(below, todo[1:]...)
+		todo = append(p.below(needs), todo[1:]...)
 	}
+	return outcome{dict: dictFrom(digits, counts), asked: needsText(asked, true)}
+}
+
+// dictFrom returns the dictionary of digits, or of other marks, in the order in which they stand in it, each with
+// as many parts as is said.
+func dictFrom(digits []string, counts []int) string {
 	var dicts []string
 	for k := len(digits) - 1; k >= 0; k-- {
 		dict := digits[k]
@@ -523,7 +534,7 @@ func searchByTexts(w impl.World, n impl.Need, choose func(candidates []int) int)
 		}
 		dicts = append([]string{dict}, dicts[counts[k]:]...)
 	}
-	return outcome{dict: dicts[0], asked: needsText(asked, true)}
+	return dicts[0]
 }
 
 // checkSearchByTexts returns why searches fail, without the most special candidate and with it.
