@@ -595,19 +595,24 @@ func TestSurveysLeaveWorldsAsTheyAre(t *testing.T) {
 	}
 }
 
-// TestSurveysAtTheSameTime has calls in several goroutines for one world, which have to return the same each time.
-func TestSurveysAtTheSameTime(t *testing.T) {
-	want := surveyed{"E;E i;E p(x,i);E p(i,x);E l(x):E x;E l(i);E m(x):E m(x);E i", "0-6 1-2 3-4", false, "5", "0 4 6"}
-	w := validWorld(t, want.world)
+// runAtOnce has calls in several goroutines, some one after the other in each.
+func runAtOnce(count int, call func()) {
 	var group sync.WaitGroup
 	for range 16 {
 		group.Add(1)
 		go func() {
 			defer group.Done()
-			for range 50 {
-				checkSurvey(t, w, want)
+			for range count {
+				call()
 			}
 		}()
 	}
 	group.Wait()
+}
+
+// TestSurveysAtTheSameTime has calls for one world, which have to return the same each time.
+func TestSurveysAtTheSameTime(t *testing.T) {
+	want := surveyed{"E;E i;E p(x,i);E p(i,x);E l(x):E x;E l(i);E m(x):E m(x);E i", "0-6 1-2 3-4", false, "5", "0 4 6"}
+	w := validWorld(t, want.world)
+	runAtOnce(50, func() { checkSurvey(t, w, want) })
 }
